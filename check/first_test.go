@@ -47,6 +47,7 @@ func faults() []fault {
 
 // P6.1: each answer alone, and two at once in each order: an error of print.Text ahead of limits, limits ahead of names.
 func TestTwoAtOnce(t *testing.T) {
+	t.Parallel()
 	pairs := []string{
 		"(comp App p (let a %1) (let b %2) (show none))", "(comp App p (let a %1) (show %2))", "(comp App p (show (list %1 %2)))", "(comp App p (when p (memo a (%1) 1)) (memo b () %2) (show none))",
 		"(comp App p (show %1))\n(comp B p (show %2))", "(comp A p (show %1))\n(comp App p (show %2))", "(comp App p (effect (%1) () ()) (effect (%2) () ()) (show none))", "(comp App p (show (host %1 a () %2)))", "(comp App p (show (rec (a %1) (b %2))))",

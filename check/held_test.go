@@ -31,6 +31,7 @@ func rich() []string {
 
 // P6.1: each word of programs as another one, left out, and put in: wherever that is a program, the answer is what the reading asks for.
 func TestOneWordOff(t *testing.T) {
+	t.Parallel()
 	answers := map[api.Errno]int{}
 	for _, s := range rich() {
 		words := told(s)
@@ -137,6 +138,7 @@ func TestOneFieldOff(t *testing.T) {
 
 // P6.1, R1: programs with some fields, wherever they stand, as other ones; and things of one program in another one.
 func TestSomeFieldsOff(t *testing.T) {
+	t.Parallel()
 	state := uint32(1)
 	next := func(n int) int {
 		state = state*1664525 + 1013904223
@@ -165,6 +167,7 @@ func TestSomeFieldsOff(t *testing.T) {
 
 // P6.1: near both limits, as the reading counts.
 func TestReadingOfLimits(t *testing.T) {
+	t.Parallel()
 	for _, w := range wides() {
 		for _, n := range []int{w.parts + 2*w.size, 100} {
 			if n < w.parts {

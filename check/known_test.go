@@ -79,6 +79,7 @@ func TestUse(t *testing.T) {
 
 // P6.1: a name in each expression that stands ahead of, in and behind each kind of statement that makes it.
 func TestAheadInBehind(t *testing.T) {
+	t.Parallel()
 	own := []string{"(let x %)", "(state x %)", "(memo x (%) 1)", "(memo x (1 %) 1)", "(memo x () %)"}
 	for _, around := range append(aroundExpr(), "%") {
 		s := put("x", around)

@@ -83,6 +83,7 @@ func (w wide) of(t *testing.T, n int) api.Program {
 
 // P6.1: just MaxNodes parts, and one more, in each place that holds some.
 func TestMaxNodes(t *testing.T) {
+	t.Parallel()
 	for _, w := range wides() {
 		comesOf(t, api.OK, w.of(t, api.MaxNodes), "MaxNodes parts, of %s in %s", w.thing, w.text)
 		p := w.of(t, api.MaxNodes+1)
@@ -100,6 +101,7 @@ func deepOf(s string, n int) string {
 
 // P6.1: parts just MaxDeep deep and one deeper, by each place of an expression where another one stands right in it.
 func TestMaxDeepOfExprs(t *testing.T) {
+	t.Parallel()
 	for _, a := range aroundExpr() {
 		ahead, behind := shown("%"), "(comp A p (let a %) (show none))\n"+shown("none")
 		for i, frame := range []string{ahead, behind} {
@@ -173,6 +175,7 @@ func TestMaxDeepOfOthers(t *testing.T) {
 
 // P6.1, R1: as deep as a text that may be is, and as is promised.
 func TestDeepest(t *testing.T) {
+	t.Parallel()
 	for _, a := range aroundExpr() {
 		if strings.Count(a, "%") > 1 {
 			continue

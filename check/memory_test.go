@@ -63,6 +63,7 @@ func bare(v reflect.Value) reflect.Value {
 
 // R4, R5: what is handed in is left as it was, its spare room too, whatever is answered; the answer is the same once more, and hangs on no spare room.
 func TestMemory(t *testing.T) {
+	t.Parallel()
 	texts := append(some(), everywhere("p")...)
 	for _, f := range faults() {
 		texts = append(texts, plain("(let a p)", f.expr))

@@ -10,6 +10,7 @@ import (
 
 // P6.1: each operation with as many expressions as it takes, fewer and more; in each place.
 func TestOps(t *testing.T) {
+	t.Parallel()
 	takes := map[string][2]int{
 		"add": {2, 2}, "sub": {2, 2}, "mul": {2, 2}, "lt": {2, 2}, "eq": {2, 2}, "not": {1, 1}, "cat": {0, -1}, "len": {1, 1}, "at": {2, 2},
 		"get": {2, 2}, "list": {0, -1}, "push": {2, 2}, "text": {1, 1}, "and": {1, -1}, "or": {1, -1},

@@ -9,6 +9,7 @@ import (
 
 // P6.1: a rec's and an element's names twice, next to one another and far apart, in each place.
 func TestNamesTwice(t *testing.T) {
+	t.Parallel()
 	for _, around := range []string{"(rec %)", "(host - div (%))", "(new - B (%))", "(pure - B (%))", "(host p div (%) 1 2)", "(new 1 App (%) 1)", "(pure 1 App (%) (rec (a 1)))"} {
 		for names, ok := range map[string]bool{
 			"": true, "a": true, "a b": true, "b a": true, "a b c d e f": true, "f e d c b a": true, "a A": true, "a aa": true, "p s": true, "it p": true, "value again else": true,
